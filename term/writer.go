@@ -1,0 +1,117 @@
+package term
+
+import (
+	"strconv"
+	"strings"
+)
+
+// Writer writes terms in their one form. It numbers variables in the order in which they come in all that it writes.
+type Writer struct {
+	out     strings.Builder
+	numbers map[*Var]int
+}
+
+// NewWriter is a writer that has met no variable yet.
+func NewWriter() *Writer { return &Writer{numbers: map[*Var]int{}} }
+
+// Form tells the one form of a term by itself.
+func Form(t Term) string {
+	w := NewWriter()
+	w.Term(t)
+	return w.Text()
+}
+
+// Text tells all that was written.
+func (w *Writer) Text() string { return w.out.String() }
+
+// Term writes a term.
+func (w *Writer) Term(t Term) {
+	switch x := t.(type) {
+	case Atom:
+		w.out.WriteString(string(x))
+	case Number:
+		w.out.WriteString(strconv.FormatInt(int64(x), 10))
+	case *Var:
+		w.out.WriteString("_" + strconv.Itoa(w.number(x)))
+	case *Compound:
+		w.compound(x)
+	}
+}
+
+func (w *Writer) number(v *Var) int {
+	n, met := w.numbers[v]
+	if !met {
+		n = len(w.numbers) + 1
+		w.numbers[v] = n
+	}
+	return n
+}
+
+func (w *Writer) compound(c *Compound) {
+	switch {
+	case c.IsCell():
+		w.list(c)
+	case IsOperation(c):
+		w.operation(c)
+	default:
+		w.out.WriteString(c.Name)
+		w.out.WriteByte('(')
+		w.inRow(c.Args)
+		w.out.WriteByte(')')
+	}
+}
+
+func (w *Writer) inRow(terms []Term) {
+	for i, t := range terms {
+		if i > 0 {
+			w.out.WriteByte(',')
+		}
+		w.Term(t)
+	}
+}
+
+func (w *Writer) list(c *Compound) {
+	elements, rest := elementsOf(c)
+	w.out.WriteByte('[')
+	w.inRow(elements)
+	if rest != Empty {
+		w.out.WriteByte('|')
+		w.Term(rest)
+	}
+	w.out.WriteByte(']')
+}
+
+// elementsOf takes a list apart as far as it goes.
+func elementsOf(list Term) (elements []Term, rest Term) {
+	rest = list
+	for {
+		c, ok := rest.(*Compound)
+		if !ok || !c.IsCell() {
+			return elements, rest
+		}
+		elements = append(elements, c.Args[0])
+		rest = c.Args[1]
+	}
+}
+
+// operation leaves out the brackets that reading from the left puts back by itself.
+func (w *Writer) operation(c *Compound) {
+	left, right := c.Args[0], c.Args[1]
+	w.operand(left, left.Strength() < c.Strength())
+	if c.Name == "mod" {
+		w.out.WriteString(" mod ")
+	} else {
+		w.out.WriteString(c.Name)
+	}
+	w.operand(right, right.Strength() <= c.Strength())
+}
+
+func (w *Writer) operand(t Term, brackets bool) {
+	if !brackets {
+		w.Term(t)
+		return
+	}
+	w.out.WriteByte('(')
+	w.Term(t)
+	w.out.WriteByte(')')
+}
