@@ -223,8 +223,18 @@ func TestClauseLimits(t *testing.T) {
 	checkLoad(t, twelve+", c(A,M).", limitAt(42))
 	checkLoad(t, twelve+", _ = A.", limitAt(38))
 
-	checkLoad(t, "a(f(f(f(f(f(f(b))))))).", fine)
-	checkLoad(t, "a(f(f(f(f(f(f(f(b)))))))).", limitAt(16))
-	checkLoad(t, "a(f(f(f(f(f(f(b))))))) :- ((((((b)))))).", fine)
 	checkLoad(t, "a :- (((((((b))))))).", limitAt(12))
+}
+
+// TestHeadDepth: P3, P5: a head is neither a prim nor a goal, so its arguments stand one deep; its body's goals do, too.
+func TestHeadDepth(t *testing.T) {
+	for text, want := range map[string]fault{
+		"a(f(f(f(f(f(f(f(b)))))))).": fine, "a(f(f(f(f(f(f(f(f(b))))))))).": limitAt(18), "a(b,f(f(f(f(f(f(f(f(B)": limitAt(20),
+		"a((((((((b)))))))).": fine, "a(((((((((b))))))))).": limitAt(10), "a((((((((": syntaxAt(9), "a(((((((((": limitAt(10), "a(((((((( )": syntaxAt(10), "a((((((((( )": limitAt(11),
+		"a([[[[[[[[]]]]]]]]).": fine, "a([[[[[[[[[]]]]]]]]]).": limitAt(10), "a([[[[[[[b|c]]]]]]]).": fine, "a([[[[[[[[b|c]]]]]]]]).": limitAt(10), "a(1+(1+(1+(1+(1+(1+(1+(1)))))))).": fine, "a(1+(1+(1+(1+(1+(1+(1+(1+(1))))))))).": limitAt(26),
+		"b. a((((((((b)))))))).": fine, "b. a(((((((((b))))))))).": limitAt(13), "true((((((((b)))))))).": nameAt(0), "true(((((((((b))))))))).": limitAt(13), "a((((((((f(b))))))))).": limitAt(11), "a((((((((f)))))))) :- X.": syntaxAt(22),
+		"a(f(f(f(f(f(f(f(b)))))))) :- ((((((b)))))).": fine, "a(f(f(f(f(f(f(f(b)))))))) :- (((((((b))))))).": limitAt(36), "a(f(f(f(f(f(f(f(X)))))))) :- b(f(f(f(f(f(X)))))).": fine, "a(f(f(f(f(f(f(f(X)))))))) :- b(f(f(f(f(f(f(X))))))).": limitAt(43),
+	} {
+		checkLoad(t, text, want)
+	}
 }

@@ -106,13 +106,12 @@ func (r *reader) clause() clause.Clause {
 	return read
 }
 
-// head reads a name that a program may define, with its arguments; it is as deep as a term by itself.
+// head reads a name that a program may define, with its arguments. It is neither a prim nor a goal, so it makes nothing deeper.
 func (r *reader) head() clause.Call {
 	first := r.now()
 	if first.kind != name {
 		panic(r.misplaced())
 	}
-	defer r.down()()
 	call, _ := asCall(r.named())
 	if _, known := clause.Arity(call.Name); known || call.Name == "mod" {
 		panic(newFault(api.ErrName, first.place))
