@@ -2,18 +2,24 @@
 package horn
 
 import (
+	"horn/api"
 	"horn/clause"
+	"horn/store"
 	"horn/syntax"
 	"horn/term"
+	"horn/walk"
 )
 
 // Base is a program.
 type Base struct {
-	clauses []clause.Clause
+	program clause.Program
 }
 
 // Query is a question under way.
-type Query struct{}
+type Query struct {
+	walker *walk.Walker
+	ended  error // what ended it; then the walker is gone
+}
 
 // Read tells a term's one form (P4).
 func Read(s string) (string, error) {
@@ -30,13 +36,24 @@ func Load(s string) (*Base, error) {
 	if err != nil {
 		return nil, err
 	}
-	return &Base{clauses: clauses}, nil
+	return &Base{program: clause.NewProgram(clauses)}, nil
 }
 
-// Ask begins a question (P6, P14). For now it only tells the question's fault.
+// Ask begins a question (P6, P14). For the machine it only tells the question's fault, for now.
 func (b *Base) Ask(s string, machine bool) (*Query, error) {
-	_, err := syntax.Question(s)
-	return nil, err
+	question, err := syntax.Question(s)
+	if err != nil || machine {
+		return nil, err
+	}
+	return &Query{walker: walk.New(b.clauses(), question)}, nil
+}
+
+// clauses are none of a Base that Load did not make: no call may panic.
+func (b *Base) clauses() clause.Program {
+	if b == nil {
+		return nil
+	}
+	return b.program
 }
 
 // Code tells the code of a question to a program (P14). For now it only tells the question's fault.
@@ -48,5 +65,17 @@ func (b *Base) Code(s string) (string, error) {
 // Run begins a code's question (P13).
 func Run(code string) (*Query, error) { return nil, nil }
 
-// Next tells the next answer (P6).
-func (q *Query) Next() (string, error) { return "", nil }
+// Next tells the next answer, or what ended the query (P6).
+func (q *Query) Next() (string, error) {
+	switch {
+	case q == nil || *q == Query{}: // no call made it, so it has no answer
+		return "", api.ErrNone
+	case q.ended != nil:
+		return "", q.ended
+	}
+	answer, err := store.Caught(q.walker.Answer)
+	if err != nil {
+		*q = Query{ended: err}
+	}
+	return answer, err
+}

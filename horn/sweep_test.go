@@ -42,6 +42,9 @@ func soundText(t *testing.T, base *horn.Base, text string) {
 	sound(t, "Load", text, loaded != nil, err)
 	query, err := base.Ask(text, false)
 	sound(t, "Ask", text, query != nil, err)
+	for i := 0; err == nil && i < 3; i++ {
+		told(t, query)
+	}
 }
 
 // TestSweep: P1: all texts of three pieces, and long ones in which one piece follows another by a fixed rule.

@@ -111,7 +111,7 @@ func (r *reader) variable() term.Term {
 	if len(r.vars) == api.MaxVars {
 		panic(newFault(api.ErrLimit, t.place))
 	}
-	v := &term.Var{Name: t.text}
+	v := &term.Var{Name: t.text, Index: len(r.vars)}
 	r.vars = append(r.vars, v)
 	return v
 }

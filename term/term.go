@@ -1,4 +1,4 @@
-// Package term: the terms that texts are made of, and their one form.
+// Package term: the terms that texts and answers are made of, and their one form.
 package term
 
 import "iter"
@@ -17,7 +17,9 @@ type Number int64
 
 // Var is a variable: the same pointer is the same variable, whatever its name.
 type Var struct {
-	Name string
+	Name  string
+	Index int  // among those of the text it was read in, in the order in which they stand there
+	Value Term // nil, while it has none
 }
 
 // Compound is a name with arguments.
@@ -54,6 +56,37 @@ func (c *Compound) Strength() int {
 		return Whole
 	}
 	return SignStrength(c.Name)
+}
+
+// Resolve tells what a term is by now: a variable that has a value is that value.
+func Resolve(t Term) Term {
+	for {
+		v, ok := t.(*Var)
+		if !ok || v.Value == nil {
+			return t
+		}
+		t = v.Value
+	}
+}
+
+// With makes a term anew, with other variables in the place of its own.
+func With(t Term, vars []Var) Term {
+	switch x := t.(type) {
+	case *Var:
+		return &vars[x.Index]
+	case *Compound:
+		return &Compound{Name: x.Name, Args: AllWith(x.Args, vars)}
+	}
+	return t
+}
+
+// AllWith makes terms anew, one by one.
+func AllWith(terms []Term, vars []Var) []Term {
+	made := make([]Term, len(terms))
+	for i, t := range terms {
+		made[i] = With(t, vars)
+	}
+	return made
 }
 
 // SignStrength tells how close a name with two arguments binds them.

@@ -46,7 +46,7 @@ func TestForm(t *testing.T) {
 // TestWriterNumbers: the numbers of variables go on from term to term.
 func TestWriterNumbers(t *testing.T) {
 	x, y := &Var{}, &Var{}
-	w := NewWriter()
+	w := NewWriter(func() {})
 	w.Term(of("f", y))
 	w.Term(of("g", x, y))
 	if got := w.Text(); got != "f(_1)g(_2,_1)" {
@@ -75,5 +75,62 @@ func TestFromBehind(t *testing.T) {
 			t.Error(got)
 		}
 		break
+	}
+}
+
+// TestResolve: a variable is its value, as far as it goes, also where it is written.
+func TestResolve(t *testing.T) {
+	a, free := Atom("a"), &Var{}
+	x := &Var{Value: &Var{Value: a}}
+	sum, rest := &Var{Value: of("+", x, free)}, &Var{Value: &Var{Value: of(".", x, &Var{Value: Empty})}}
+	if Resolve(x) != a || Resolve(free) != free || Resolve(a) != a {
+		t.Error("resolved otherwise")
+	}
+	for _, c := range []struct {
+		of   Term
+		want string
+	}{
+		{x, "a"}, {of("f", free, x), "f(_1,a)"}, {of("*", sum, sum), "(a+_1)*(a+_1)"}, {of("+", sum, sum), "a+_1+(a+_1)"}, {of(".", free, rest), "[_1,a]"}, {of(".", free, &Var{Value: free}), "[_1|_1]"},
+	} {
+		if got := Form(c.of); got != c.want {
+			t.Errorf("got %q, want %q", got, c.want)
+		}
+	}
+}
+
+// TestWith: other variables in the place of a term's own, and the term as it was.
+func TestWith(t *testing.T) {
+	read := of("f", &Var{Index: 1}, of("g", &Var{Index: 0}, Atom("a")), Number(1), &Var{Index: 1})
+	vars := make([]Var, 2)
+	vars[0].Value = Number(7)
+	made := With(read, vars)
+	if got := Form(made); got != "f(_1,g(7,a),1,_1)" {
+		t.Error(got)
+	}
+	vars[1].Value = Empty
+	if got := Form(made); got != "f([],g(7,a),1,[])" {
+		t.Error(got)
+	}
+	if got := Form(read); got != "f(_1,g(_2,a),1,_3)" {
+		t.Error(got)
+	}
+}
+
+// TestWriterCounts: P10: each term that is written; of a list it, its elements, and a rest behind a bar.
+func TestWriterCounts(t *testing.T) {
+	a := Atom("a")
+	for _, c := range []struct {
+		of   Term
+		want int
+	}{
+		{a, 1}, {&Var{Value: a}, 1}, {of("f", a, &Var{}), 3}, {of("+", a, of("*", a, a)), 5}, {Empty, 1}, {List([]Term{a, a}, Empty), 3}, {List([]Term{a, a}, a), 4}, {List([]Term{List([]Term{a}, Empty)}, of("f", a)), 5},
+	} {
+		counted := 0
+		w := NewWriter(func() { counted++ })
+		w.Plain("X = ")
+		w.Term(c.of)
+		if counted != c.want {
+			t.Errorf("P10: %s: %d", w.Text(), counted)
+		}
 	}
 }

@@ -9,24 +9,31 @@ import (
 type Writer struct {
 	out     strings.Builder
 	numbers map[*Var]int
+	count   func()
 }
 
-// NewWriter is a writer that has met no variable yet.
-func NewWriter() *Writer { return &Writer{numbers: map[*Var]int{}} }
+// NewWriter is a writer that has met no variable yet. It calls count ahead of each term, which may end it by a panic.
+func NewWriter(count func()) *Writer {
+	return &Writer{numbers: map[*Var]int{}, count: count}
+}
 
 // Form tells the one form of a term by itself.
 func Form(t Term) string {
-	w := NewWriter()
+	w := NewWriter(func() {})
 	w.Term(t)
 	return w.Text()
 }
+
+// Plain writes what is no term.
+func (w *Writer) Plain(text string) { w.out.WriteString(text) }
 
 // Text tells all that was written.
 func (w *Writer) Text() string { return w.out.String() }
 
 // Term writes a term.
 func (w *Writer) Term(t Term) {
-	switch x := t.(type) {
+	w.count()
+	switch x := Resolve(t).(type) {
 	case Atom:
 		w.out.WriteString(string(x))
 	case Number:
@@ -90,13 +97,13 @@ func elementsOf(list Term) (elements []Term, rest Term) {
 			return elements, rest
 		}
 		elements = append(elements, c.Args[0])
-		rest = c.Args[1]
+		rest = Resolve(c.Args[1])
 	}
 }
 
 // operation leaves out the brackets that reading from the left puts back by itself.
 func (w *Writer) operation(c *Compound) {
-	left, right := c.Args[0], c.Args[1]
+	left, right := Resolve(c.Args[0]), Resolve(c.Args[1])
 	w.operand(left, left.Strength() < c.Strength())
 	if c.Name == "mod" {
 		w.out.WriteString(" mod ")

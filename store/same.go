@@ -1,0 +1,68 @@
+package store
+
+import "horn/term"
+
+// Same makes two terms the same, and tells whether it could. What it bound until it could not stays bound.
+func (s *Store) Same(a, b term.Term) bool {
+	s.Count()
+	a, b = term.Resolve(a), term.Resolve(b)
+	if v, ok := a.(*term.Var); ok {
+		return s.become(v, b)
+	}
+	if v, ok := b.(*term.Var); ok {
+		return s.become(v, a)
+	}
+	return sameOutside(a, b, s.Same)
+}
+
+// become gives a variable without a value one, unless it would stand in its own value.
+func (s *Store) become(v *term.Var, t term.Term) bool {
+	if t == v {
+		return true
+	}
+	if s.standsIn(v, t) {
+		return false
+	}
+	s.bind(v, t)
+	return true
+}
+
+// standsIn looks for a variable. Only what has arguments is looked into, so nothing else counts.
+func (s *Store) standsIn(v *term.Var, t term.Term) bool {
+	switch x := term.Resolve(t).(type) {
+	case *term.Var:
+		return x == v
+	case *term.Compound:
+		s.Count()
+		for _, arg := range x.Args {
+			if s.standsIn(v, arg) {
+				return true
+			}
+		}
+	}
+	return false
+}
+
+// equal tells whether two terms are the same as they are.
+func (s *Store) equal(a, b term.Term) bool {
+	s.Count()
+	return sameOutside(term.Resolve(a), term.Resolve(b), s.equal)
+}
+
+// sameOutside tells whether two terms are the same kind of thing with the same name; pair is asked of their arguments.
+func sameOutside(a, b term.Term, pair func(a, b term.Term) bool) bool {
+	x, ok := a.(*term.Compound)
+	if !ok {
+		return a == b
+	}
+	y, ok := b.(*term.Compound)
+	if !ok || x.Name != y.Name || len(x.Args) != len(y.Args) {
+		return false
+	}
+	for i := range x.Args {
+		if !pair(x.Args[i], y.Args[i]) {
+			return false
+		}
+	}
+	return true
+}

@@ -1,0 +1,145 @@
+package store
+
+import (
+	"errors"
+	"math"
+	"testing"
+
+	"horn/api"
+	"horn/term"
+)
+
+const plenty = 1000
+
+func of(name string, args ...term.Term) term.Term { return &term.Compound{Name: name, Args: args} }
+
+// TestSame: P7: what is made the same, what it binds, and that it is undone.
+func TestSame(t *testing.T) {
+	x, y := &term.Var{}, &term.Var{}
+	a, one := term.Atom("a"), term.Number(1)
+	for _, c := range []struct {
+		a, b  term.Term
+		want  bool
+		bound int
+	}{
+		{a, a, true, 0}, {a, term.Atom("b"), false, 0}, {one, one, true, 0}, {one, a, false, 0}, {a, of("a", a), false, 0}, {of("a", a), a, false, 0},
+		{x, x, true, 0}, {x, y, true, 1}, {x, a, true, 1}, {a, x, true, 1},
+		{x, of("f", x), false, 0}, {of("f", y, x), x, false, 0}, {x, of("f", y), true, 1},
+		{of("f", x), of("f", a), true, 1}, {of("f", x, x), of("f", a, one), false, 1}, {of("f", x), of("f", x, y), false, 0}, {of("f", x), of("g", x), false, 0},
+		{of("f", x, y), of("f", of("g", y), x), false, 1},
+	} {
+		s := New(plenty)
+		if got := s.Same(c.a, c.b); got != c.want || s.Mark() != c.bound {
+			t.Errorf("P7: %s and %s: %v with %d bound", term.Form(c.a), term.Form(c.b), got, s.Mark())
+		}
+		s.Undo(0)
+		if x.Value != nil || y.Value != nil || s.Mark() != 0 {
+			t.Fatalf("P7: %s and %s: not undone", term.Form(c.a), term.Form(c.b))
+		}
+	}
+}
+
+// TestUndo: P7: only what was bound since is undone.
+func TestUndo(t *testing.T) {
+	x, y, z := &term.Var{}, &term.Var{}, &term.Var{}
+	s := New(plenty)
+	s.Same(x, y)
+	mark := s.Mark()
+	s.Same(y, term.Atom("a"))
+	s.Same(z, x)
+	if got := term.Form(of("f", x, y, z)); got != "f(a,a,a)" {
+		t.Error(got)
+	}
+	s.Undo(mark)
+	if got := term.Form(of("f", x, y, z)); got != "f(_1,_1,_2)" {
+		t.Error(got)
+	}
+}
+
+// TestDiffer: P8: nothing stays bound, whether it holds or not, and what was bound stays.
+func TestDiffer(t *testing.T) {
+	x, y := &term.Var{}, &term.Var{}
+	s := New(plenty)
+	s.Same(y, term.Number(7))
+	if s.Test("\\=", []term.Term{x, y}) || !s.Test("\\=", []term.Term{of("f", x, y), of("f", y, x, x)}) || !s.Test("\\=", []term.Term{of("f", x, y), of("f", y, term.Number(8))}) {
+		t.Error("P8")
+	}
+	if x.Value != nil || y.Value != term.Number(7) || s.Mark() != 1 {
+		t.Error("P8: bound otherwise")
+	}
+}
+
+// TestOperate: P9, at the ends of 64 bits.
+func TestOperate(t *testing.T) {
+	for _, c := range []struct {
+		a    int64
+		sign string
+		b    int64
+		want int64
+	}{
+		{math.MaxInt64, "+", 1, math.MinInt64}, {math.MinInt64, "-", 1, math.MaxInt64}, {math.MinInt64, "*", -1, math.MinInt64}, {math.MaxInt64, "*", 2, -2},
+		{math.MinInt64, "//", -1, math.MinInt64}, {math.MinInt64, "//", 2, math.MinInt64 / 2}, {-1, "//", math.MaxInt64, 0},
+		{math.MinInt64, "mod", -1, 0}, {math.MinInt64, "mod", math.MaxInt64, math.MaxInt64 - 1}, {math.MaxInt64, "mod", math.MinInt64, -1}, {-1, "mod", math.MinInt64, -1}, {1, "mod", math.MinInt64, math.MinInt64 + 1},
+		{7, "mod", 3, 1}, {-7, "mod", 3, 2}, {7, "mod", -3, -2}, {-7, "mod", -3, -1},
+	} {
+		if got := operate(c.sign, c.a, c.b); got != c.want {
+			t.Errorf("P9: %d %s %d: got %d, want %d", c.a, c.sign, c.b, got, c.want)
+		}
+	}
+}
+
+// TestValueOfNames: P9: a sign with another number of arguments, which only a code has, is no operation.
+func TestValueOfNames(t *testing.T) {
+	for _, of := range []term.Term{of("-", term.Number(1)), of("+", term.Number(1), term.Number(2), term.Number(3)), of("f", &term.Var{})} {
+		_, err := Caught(func() string { New(plenty).value(of); return "value" })
+		if !errors.Is(err, api.ErrType) {
+			t.Errorf("P9: %s: %v", term.Form(of), err)
+		}
+	}
+}
+
+// TestCount: P10: how much each thing counts.
+func TestCount(t *testing.T) {
+	x, y := &term.Var{}, &term.Var{}
+	a, one := term.Atom("a"), term.Number(1)
+	for _, c := range []struct {
+		name string
+		args []term.Term
+		want int
+	}{
+		{"true", nil, 0}, {"var", []term.Term{x}, 0},
+		{"=", []term.Term{a, one}, 1}, {"=", []term.Term{x, a}, 1}, {"=", []term.Term{x, y}, 1}, {"=", []term.Term{of("f", a, a), of("f", a, a)}, 3}, {"=", []term.Term{of("f", a, a), of("f", one, a)}, 2}, {"=", []term.Term{of("f", a), of("g", a)}, 1},
+		{"=", []term.Term{x, of("f", a, of("g", y))}, 3}, {"=", []term.Term{of("f", x), x}, 2}, {"\\=", []term.Term{x, of("f", a)}, 2},
+		{"==", []term.Term{a, a}, 1}, {"==", []term.Term{of("f", x, y), of("f", x, y)}, 3}, {"==", []term.Term{of("f", x, y), of("f", y, y)}, 2},
+		{"<", []term.Term{one, one}, 2}, {"<", []term.Term{of("+", one, of("*", one, one)), one}, 6}, {"is", []term.Term{x, of("-", one, one)}, 4},
+	} {
+		s := New(plenty)
+		s.Test(c.name, c.args)
+		if got := plenty - s.left; got != c.want {
+			t.Errorf("P10: %s: got %d, want %d", c.name, got, c.want)
+		}
+		s.Undo(0)
+	}
+}
+
+// TestFuel: P10: as much as may be done is done, and no more.
+func TestFuel(t *testing.T) {
+	s := New(2)
+	for _, want := range []error{nil, nil, api.ErrFuel, api.ErrFuel} {
+		answer, err := Caught(func() string { s.Count(); return "counted" })
+		if err != want || (answer == "") != (err != nil) {
+			t.Errorf("P10: %q, %v", answer, err)
+		}
+	}
+}
+
+// TestCaught: a panic that ends no query goes on.
+func TestCaught(t *testing.T) {
+	other := errors.New("other")
+	defer func() {
+		if caught := recover(); caught != other {
+			t.Errorf("caught %v", caught)
+		}
+	}()
+	Caught(func() string { panic(other) })
+}

@@ -1,0 +1,149 @@
+// Package walk: questions answered by walking through a program's clauses (P7).
+package walk
+
+import (
+	"horn/api"
+	"horn/clause"
+	"horn/store"
+	"horn/term"
+)
+
+// most is what may be counted. P10 asks for no less than api.Fuel: as much again makes up for what is counted here and need not be, the steps behind the goals of `->` and `\+`.
+const most = 2 * api.Fuel
+
+// Walker is a question on its way through a program.
+type Walker struct {
+	program clause.Program
+	store   *store.Store
+	names   []*term.Var // the question's variables, as they were read
+	vars    []term.Var  // the same, as they are by now
+	todo    *todo
+	places  []place
+	begun   bool
+}
+
+// New begins a question.
+func New(program clause.Program, question *clause.Question) *Walker {
+	vars := make([]term.Var, len(question.Vars))
+	return &Walker{
+		program: program,
+		store:   store.New(most),
+		names:   question.Vars,
+		vars:    vars,
+		todo:    &todo{goal: question.Body, vars: vars},
+	}
+}
+
+// Answer looks for the next answer, and tells it. If there is none, it ends the query (store.End).
+func (w *Walker) Answer() string {
+	if w.begun {
+		w.back()
+	}
+	w.begun = true
+	for w.todo != nil {
+		if row, ok := w.todo.goal.(clause.All); ok {
+			w.todo = w.todo.apart(row)
+			continue
+		}
+		if !w.do() {
+			w.back()
+		}
+	}
+	return w.answer()
+}
+
+// do does the first goal of the list, and tells whether it held.
+func (w *Walker) do() bool {
+	w.store.Count()
+	first, height := w.todo, len(w.places)
+	w.todo = first.next
+	switch goal := first.goal.(type) {
+	case clause.Cut:
+		w.cut(first.height)
+	case clause.Either:
+		w.put(place{todo: first.with(goal.Second, first.next)})
+		w.todo = first.with(goal.First, first.next)
+	case clause.Choice:
+		w.put(place{todo: first.with(goal.Else, first.next)})
+		w.todo = first.once(goal.If, height, first.with(goal.Then, first.next))
+	case clause.Not:
+		w.put(place{todo: first.next})
+		w.todo = first.once(goal.Goal, height, &todo{goal: clause.Call{Name: "fail"}})
+	case clause.Call:
+		return w.call(goal.Name, term.AllWith(goal.Args, first.vars))
+	}
+	return true
+}
+
+func (w *Walker) call(name string, args []term.Term) bool {
+	if _, known := clause.Arity(name); known {
+		return w.store.Test(name, args)
+	}
+	clauses := w.program[clause.Predicate{Name: name, Arity: len(args)}]
+	if len(clauses) == 0 {
+		store.End(api.ErrProc)
+	}
+	return w.try(clauses, args)
+}
+
+// try tries the first of some clauses, with a place for the others, and tells whether its head could be made the same as the goal.
+func (w *Walker) try(clauses []clause.Clause, args []term.Term) bool {
+	w.store.Count()
+	height := len(w.places)
+	if len(clauses) > 1 {
+		w.put(place{todo: w.todo, clauses: clauses[1:], args: args})
+	}
+	tried := clauses[0]
+	vars := make([]term.Var, len(tried.Vars))
+	for i, arg := range tried.Head.Args {
+		if !w.store.Same(term.With(arg, vars), args[i]) {
+			return false
+		}
+	}
+	w.todo = &todo{tried.Body, vars, height, w.todo}
+	return true
+}
+
+func (w *Walker) put(p place) {
+	p.mark = w.store.Mark()
+	w.places = append(w.places, p)
+}
+
+func (w *Walker) cut(height int) {
+	clear(w.places[height:])
+	w.places = w.places[:height]
+}
+
+// back goes back to the last place from which the search can go on.
+func (w *Walker) back() {
+again:
+	top := len(w.places) - 1
+	if top < 0 {
+		store.End(api.ErrNone)
+	}
+	last := w.places[top]
+	w.cut(top)
+	w.store.Undo(last.mark)
+	w.todo = last.todo
+	if len(last.clauses) > 0 && !w.try(last.clauses, last.args) {
+		goto again
+	}
+}
+
+// answer writes what the question's variables are (P6).
+func (w *Walker) answer() string {
+	out := term.NewWriter(w.store.Count)
+	between := ""
+	for i, v := range w.names {
+		if v.Name[0] == '_' {
+			continue
+		}
+		out.Plain(between + v.Name + " = ")
+		out.Term(&w.vars[i])
+		between = ", "
+	}
+	if between == "" {
+		return "true"
+	}
+	return out.Text()
+}
