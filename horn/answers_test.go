@@ -36,32 +36,39 @@ func told(t *testing.T, query *horn.Query) string {
 		return answer
 	}
 	errno, place := api.Tell(err)
-	if answer != "" || place != -1 || errno < api.ErrNone || errno > api.ErrFuel {
-		t.Errorf("P1: %q, %v", answer, err)
+	if answer != "" || place != -1 || errno < api.ErrCode || errno > api.ErrFuel {
+		t.Fatalf("P1: %q, %v", answer, err)
 	}
 	for e := api.OK; e <= api.ErrFuel; e++ {
 		if errors.Is(err, e) != (e == errno) {
 			t.Errorf("P6: %v is %d", err, e)
 		}
 	}
-	return [...]string{"none", "inst", "type", "zero", "proc", "fuel"}[errno-api.ErrNone]
+	return [...]string{"code", "none", "inst", "type", "zero", "proc", "fuel"}[errno-api.ErrCode]
 }
 
 // ends tells whether what was told is no answer.
-func ends(text string) bool { return strings.Contains(" none inst type zero proc fuel ", " "+text+" ") }
+func ends(text string) bool {
+	return strings.Contains(" code none inst type zero proc fuel ", " "+text+" ")
+}
 
-// checkAnswers asks a question, and holds what is told one after the other against texts with `;` between. What ended it is asked for thrice.
+// checkAnswers asks a question, and holds what is told against what has to be.
 func checkAnswers(t *testing.T, promise, program, question, want string) {
 	t.Helper()
-	query := ask(t, load(t, program), question)
+	checkTold(t, promise+": "+strconv.Quote(question)+" to "+strconv.Quote(program), ask(t, load(t, program), question), want)
+}
+
+// checkTold holds what a query tells, one after the other, against texts with `;` between. What ended it is asked for thrice.
+func checkTold(t *testing.T, what string, query *horn.Query, want string) {
+	t.Helper()
 	for _, one := range strings.Split(want, "; ") {
 		if got := told(t, query); got != one {
-			t.Errorf("%s: %q to %q: got %s, want %s of %s", promise, question, program, got, one, want)
+			t.Errorf("%s: got %s, want %s of %s", what, got, one, want)
 			return
 		}
 		for range 2 {
 			if ends(one) && told(t, query) != one {
-				t.Errorf("P6: %q to %q: another end", question, program)
+				t.Errorf("P6: %s: another end", what)
 			}
 		}
 	}

@@ -4,6 +4,7 @@ package horn
 import (
 	"horn/api"
 	"horn/clause"
+	"horn/machine"
 	"horn/store"
 	"horn/syntax"
 	"horn/term"
@@ -15,10 +16,15 @@ type Base struct {
 	program clause.Program
 }
 
+// engine looks for answers: each call tells the next one, or ends the query (store.End).
+type engine interface {
+	Answer() string
+}
+
 // Query is a question under way.
 type Query struct {
-	walker *walk.Walker
-	ended  error // what ended it; then the walker is gone
+	engine engine
+	ended  error // what ended it; then the engine is gone
 }
 
 // Read tells a term's one form (P4).
@@ -39,13 +45,13 @@ func Load(s string) (*Base, error) {
 	return &Base{program: clause.NewProgram(clauses)}, nil
 }
 
-// Ask begins a question (P6, P14). For the machine it only tells the question's fault, for now.
+// Ask begins a question (P6, P14). By the machine it only tells the question's fault, for now.
 func (b *Base) Ask(s string, machine bool) (*Query, error) {
 	question, err := syntax.Question(s)
 	if err != nil || machine {
 		return nil, err
 	}
-	return &Query{walker: walk.New(b.clauses(), question)}, nil
+	return &Query{engine: walk.New(b.clauses(), question)}, nil
 }
 
 // clauses are none of a Base that Load did not make: no call may panic.
@@ -63,7 +69,13 @@ func (b *Base) Code(s string) (string, error) {
 }
 
 // Run begins a code's question (P13).
-func Run(code string) (*Query, error) { return nil, nil }
+func Run(code string) (*Query, error) {
+	begun, err := machine.Load(code)
+	if err != nil {
+		return nil, err
+	}
+	return &Query{engine: begun}, nil
+}
 
 // Next tells the next answer, or what ended the query (P6).
 func (q *Query) Next() (string, error) {
@@ -73,7 +85,7 @@ func (q *Query) Next() (string, error) {
 	case q.ended != nil:
 		return "", q.ended
 	}
-	answer, err := store.Caught(q.walker.Answer)
+	answer, err := store.Caught(q.engine.Answer)
 	if err != nil {
 		*q = Query{ended: err}
 	}

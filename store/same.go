@@ -23,11 +23,11 @@ func (s *Store) become(v *term.Var, t term.Term) bool {
 	if s.standsIn(v, t) {
 		return false
 	}
-	s.bind(v, t)
+	s.Bind(v, t)
 	return true
 }
 
-// standsIn looks for a variable. Only what has arguments is looked into, so nothing else counts.
+// standsIn looks for a variable. Only what has arguments is looked into, so nothing else counts; where one of them stands again it is not looked into again.
 func (s *Store) standsIn(v *term.Var, t term.Term) bool {
 	switch x := term.Resolve(t).(type) {
 	case *term.Var:
@@ -56,11 +56,11 @@ func sameOutside(a, b term.Term, pair func(a, b term.Term) bool) bool {
 		return a == b
 	}
 	y, ok := b.(*term.Compound)
-	if !ok || x.Name != y.Name || len(x.Args) != len(y.Args) {
+	if !ok || x.Name != y.Name || x.Arity() != y.Arity() {
 		return false
 	}
-	for i := range x.Args {
-		if !pair(x.Args[i], y.Args[i]) {
+	for i := range x.Arity() {
+		if !pair(x.Arg(i), y.Arg(i)) {
 			return false
 		}
 	}

@@ -57,7 +57,8 @@ func (s *Store) Undo(mark int) {
 	s.bound = s.bound[:mark]
 }
 
-func (s *Store) bind(v *term.Var, t term.Term) {
+// Bind gives a variable without a value one, in which it must not stand.
+func (s *Store) Bind(v *term.Var, t term.Term) {
 	v.Value = t
 	s.bound = append(s.bound, v)
 }

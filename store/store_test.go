@@ -39,6 +39,53 @@ func TestSame(t *testing.T) {
 	}
 }
 
+// TestSameInOrder: P7, P10: of rows in which something stands more than once, each place is a pair, but is looked into once.
+func TestSameInOrder(t *testing.T) {
+	x, y := &term.Var{}, &term.Var{}
+	row := &term.Compound{Name: "f", Args: []term.Term{x}, Order: []int{0, 0, 0}}
+	for _, c := range []struct {
+		a, b  term.Term
+		want  bool
+		count int
+	}{
+		{row, of("f", y, y, y), true, 4}, {row, of("f", y, term.Atom("a"), term.Number(1)), false, 4}, {row, of("f", x, x), false, 1}, {y, row, true, 2}, {x, row, false, 2}, {y, &term.Compound{Name: "f", Order: []int{term.Unmet, term.Unmet}}, true, 2}, {of("f", x, x), &term.Compound{Name: "f", Order: []int{term.Unmet, term.Unmet}}, true, 3}, {row, row, true, 4},
+	} {
+		s := New(plenty)
+		if got := s.Same(c.a, c.b); got != c.want || plenty-s.left != c.count {
+			t.Errorf("P7: %s and %s: %v, %d counted", term.Form(c.a), term.Form(c.b), got, plenty-s.left)
+		}
+		s.Undo(0)
+	}
+	met := &term.Compound{Name: "f", Order: []int{term.Unmet, term.Unmet}}
+	if New(plenty).Same(met.Arg(1), met) {
+		t.Error("P7: a variable that stands there became it")
+	}
+}
+
+// TestSearch: P7: what fails goes back to the place that was put last, with all undone that was bound since; the stack is cut only if it is higher.
+func TestSearch(t *testing.T) {
+	x, y := &term.Var{}, &term.Var{}
+	s := NewSearch[string](plenty)
+	s.Put("first")
+	s.Same(x, term.Number(1))
+	s.Put("second")
+	s.Same(y, term.Number(2))
+	s.Cut(2)
+	s.Cut(7)
+	if s.Height() != 2 || s.Back() != "second" || x.Value == nil || y.Value != nil {
+		t.Error("P7: not the second place")
+	}
+	s.Put("third")
+	s.Put("fourth")
+	s.Cut(1)
+	if s.Height() != 1 || s.Back() != "first" || x.Value != nil || s.Height() != 0 {
+		t.Error("P7: not the first place")
+	}
+	if place, err := Caught(s.Back); place != "" || err != api.ErrNone {
+		t.Errorf("P7: %q, %v", place, err)
+	}
+}
+
 // TestUndo: P7: only what was bound since is undone.
 func TestUndo(t *testing.T) {
 	x, y, z := &term.Var{}, &term.Var{}, &term.Var{}

@@ -15,8 +15,8 @@ func (s *Store) value(t term.Term) int64 {
 		End(api.ErrInst)
 	case *term.Compound:
 		if term.IsOperation(x) {
-			left := s.value(x.Args[0])
-			return operate(x.Name, left, s.value(x.Args[1]))
+			left := s.value(x.Arg(0))
+			return operate(x.Name, left, s.value(x.Arg(1)))
 		}
 	}
 	End(api.ErrType)

@@ -22,10 +22,12 @@ type Var struct {
 	Value Term // nil, while it has none
 }
 
-// Compound is a name with arguments.
+// Compound is a name with arguments: Arity tells how many, Arg which.
 type Compound struct {
-	Name string
-	Args []Term
+	Name  string
+	Args  []Term
+	Order []int       // which of Args stands at each place, or Unmet; nil: they stand there as they are
+	met   map[int]int // which of Args stands at a place that was Unmet, once it is not
 }
 
 // A list is Empty, or Cell with its first element and the rest.
@@ -52,7 +54,7 @@ func (*Var) Strength() int { return Whole }
 
 // Strength of a name with arguments: only an operation has a sign.
 func (c *Compound) Strength() int {
-	if len(c.Args) != 2 {
+	if c.Arity() != 2 {
 		return Whole
 	}
 	return SignStrength(c.Name)
@@ -69,7 +71,7 @@ func Resolve(t Term) Term {
 	}
 }
 
-// With makes a term anew, with other variables in the place of its own.
+// With makes a term that was read anew, with other variables in the place of its own.
 func With(t Term, vars []Var) Term {
 	switch x := t.(type) {
 	case *Var:
@@ -104,7 +106,7 @@ func SignStrength(name string) int {
 func IsOperation(t Term) bool { return t.Strength() < Whole }
 
 // IsCell tells whether the name with arguments is a list that is not empty.
-func (c *Compound) IsCell() bool { return c.Name == Cell && len(c.Args) == 2 }
+func (c *Compound) IsCell() bool { return c.Name == Cell && c.Arity() == 2 }
 
 // List makes a list of elements with a rest behind them.
 func List(elements []Term, rest Term) Term {

@@ -134,3 +134,44 @@ func TestWriterCounts(t *testing.T) {
 		}
 	}
 }
+
+// TestOrder: P11: what stands in a row more than once is one thing, and the row is none the shorter.
+func TestOrder(t *testing.T) {
+	x, a := &Var{}, Atom("a")
+	row := &Compound{Name: "f", Args: []Term{x, a}, Order: []int{1, 0, 1, 0, 0}}
+	if row.Arity() != 5 || row.Arg(0) != a || row.Arg(1) != x || row.Arg(4) != x {
+		t.Error("another row")
+	}
+	for _, c := range []struct {
+		of   Term
+		want string
+	}{
+		{row, "f(a,_1,a,_1,_1)"},
+		{&Compound{Name: "+", Args: []Term{x}, Order: []int{0, 0}}, "_1+_1"},
+		{&Compound{Name: "*", Args: []Term{of("+", x, a)}, Order: []int{0, 0}}, "(_1+a)*(_1+a)"},
+		{&Compound{Name: Cell, Args: []Term{Empty}, Order: []int{0, 0}}, "[[]]"},
+		{&Compound{Name: "+", Args: []Term{x, a}, Order: []int{0, 1, 0}}, "+(_1,a,_1)"},
+		{&Compound{Name: "f", Args: []Term{x}, Order: []int{0}}, "f(_1)"},
+	} {
+		if got := Form(c.of); got != c.want {
+			t.Errorf("got %q, want %q", got, c.want)
+		}
+	}
+}
+
+// TestUnmet: P11: variables that nothing has asked for are new, each another one, and stay the same from then on.
+func TestUnmet(t *testing.T) {
+	order := []int{Unmet, Unmet, Unmet}
+	row, other := &Compound{Name: "f", Order: order}, &Compound{Name: "f", Order: order}
+	last := row.Arg(2)
+	if row.Arity() != 3 || len(row.Args) != 1 || row.Arg(2) != last || row.Arg(0) == last || other.Arg(2) == last {
+		t.Error("another row")
+	}
+	last.(*Var).Value = Number(1)
+	if got := Form(of("g", row, other, row)); got != "g(f(_1,_2,1),f(_3,_4,_5),f(_1,_2,1))" {
+		t.Error(got)
+	}
+	if !slices.Equal(order, []int{Unmet, Unmet, Unmet}) || len(row.Args) != 3 {
+		t.Error(order, len(row.Args))
+	}
+}

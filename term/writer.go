@@ -62,25 +62,34 @@ func (w *Writer) compound(c *Compound) {
 		w.operation(c)
 	default:
 		w.out.WriteString(c.Name)
-		w.out.WriteByte('(')
-		w.inRow(c.Args)
-		w.out.WriteByte(')')
+		w.args(c)
 	}
 }
 
-func (w *Writer) inRow(terms []Term) {
-	for i, t := range terms {
-		if i > 0 {
-			w.out.WriteByte(',')
-		}
-		w.Term(t)
+func (w *Writer) args(c *Compound) {
+	between := "("
+	for place := range c.Arity() {
+		w.out.WriteString(between)
+		w.Term(c.Arg(place))
+		between = ","
 	}
+	w.out.WriteByte(')')
 }
 
+// list writes a list as far as it goes, and its rest. It writes each element as it comes to it: lists within lists may share so much that there is no room for all the elements of all of them at once.
 func (w *Writer) list(c *Compound) {
-	elements, rest := elementsOf(c)
-	w.out.WriteByte('[')
-	w.inRow(elements)
+	between := "["
+	var rest Term = c
+	for {
+		cell, ok := rest.(*Compound)
+		if !ok || !cell.IsCell() {
+			break
+		}
+		w.out.WriteString(between)
+		w.Term(cell.Arg(0))
+		between = ","
+		rest = Resolve(cell.Arg(1))
+	}
 	if rest != Empty {
 		w.out.WriteByte('|')
 		w.Term(rest)
@@ -88,22 +97,9 @@ func (w *Writer) list(c *Compound) {
 	w.out.WriteByte(']')
 }
 
-// elementsOf takes a list apart as far as it goes.
-func elementsOf(list Term) (elements []Term, rest Term) {
-	rest = list
-	for {
-		c, ok := rest.(*Compound)
-		if !ok || !c.IsCell() {
-			return elements, rest
-		}
-		elements = append(elements, c.Args[0])
-		rest = Resolve(c.Args[1])
-	}
-}
-
 // operation leaves out the brackets that reading from the left puts back by itself.
 func (w *Writer) operation(c *Compound) {
-	left, right := Resolve(c.Args[0]), Resolve(c.Args[1])
+	left, right := Resolve(c.Arg(0)), Resolve(c.Arg(1))
 	w.operand(left, left.Strength() < c.Strength())
 	if c.Name == "mod" {
 		w.out.WriteString(" mod ")

@@ -37,7 +37,6 @@ func (l *todo) apart(row clause.All) *todo {
 
 // place is where the search comes back to: a list of goals, ahead of which clauses may be left to try.
 type place struct {
-	mark    int // how much was bound
 	todo    *todo
 	clauses []clause.Clause
 	args    []term.Term

@@ -13,12 +13,11 @@ const most = 2 * api.Fuel
 
 // Walker is a question on its way through a program.
 type Walker struct {
+	store.Search[place]
 	program clause.Program
-	store   *store.Store
 	names   []*term.Var // the question's variables, as they were read
 	vars    []term.Var  // the same, as they are by now
 	todo    *todo
-	places  []place
 	begun   bool
 }
 
@@ -26,8 +25,8 @@ type Walker struct {
 func New(program clause.Program, question *clause.Question) *Walker {
 	vars := make([]term.Var, len(question.Vars))
 	return &Walker{
+		Search:  store.NewSearch[place](most),
 		program: program,
-		store:   store.New(most),
 		names:   question.Vars,
 		vars:    vars,
 		todo:    &todo{goal: question.Body, vars: vars},
@@ -54,20 +53,20 @@ func (w *Walker) Answer() string {
 
 // do does the first goal of the list, and tells whether it held.
 func (w *Walker) do() bool {
-	w.store.Count()
-	first, height := w.todo, len(w.places)
+	w.Count()
+	first, height := w.todo, w.Height()
 	w.todo = first.next
 	switch goal := first.goal.(type) {
 	case clause.Cut:
-		w.cut(first.height)
+		w.Cut(first.height)
 	case clause.Either:
-		w.put(place{todo: first.with(goal.Second, first.next)})
+		w.Put(place{todo: first.with(goal.Second, first.next)})
 		w.todo = first.with(goal.First, first.next)
 	case clause.Choice:
-		w.put(place{todo: first.with(goal.Else, first.next)})
+		w.Put(place{todo: first.with(goal.Else, first.next)})
 		w.todo = first.once(goal.If, height, first.with(goal.Then, first.next))
 	case clause.Not:
-		w.put(place{todo: first.next})
+		w.Put(place{todo: first.next})
 		w.todo = first.once(goal.Goal, height, &todo{goal: clause.Call{Name: "fail"}})
 	case clause.Call:
 		return w.call(goal.Name, term.AllWith(goal.Args, first.vars))
@@ -77,7 +76,7 @@ func (w *Walker) do() bool {
 
 func (w *Walker) call(name string, args []term.Term) bool {
 	if _, known := clause.Arity(name); known {
-		return w.store.Test(name, args)
+		return w.Test(name, args)
 	}
 	clauses := w.program[clause.Predicate{Name: name, Arity: len(args)}]
 	if len(clauses) == 0 {
@@ -88,15 +87,15 @@ func (w *Walker) call(name string, args []term.Term) bool {
 
 // try tries the first of some clauses, with a place for the others, and tells whether its head could be made the same as the goal.
 func (w *Walker) try(clauses []clause.Clause, args []term.Term) bool {
-	w.store.Count()
-	height := len(w.places)
+	w.Count()
+	height := w.Height()
 	if len(clauses) > 1 {
-		w.put(place{todo: w.todo, clauses: clauses[1:], args: args})
+		w.Put(place{todo: w.todo, clauses: clauses[1:], args: args})
 	}
 	tried := clauses[0]
 	vars := make([]term.Var, len(tried.Vars))
 	for i, arg := range tried.Head.Args {
-		if !w.store.Same(term.With(arg, vars), args[i]) {
+		if !w.Same(term.With(arg, vars), args[i]) {
 			return false
 		}
 	}
@@ -104,26 +103,10 @@ func (w *Walker) try(clauses []clause.Clause, args []term.Term) bool {
 	return true
 }
 
-func (w *Walker) put(p place) {
-	p.mark = w.store.Mark()
-	w.places = append(w.places, p)
-}
-
-func (w *Walker) cut(height int) {
-	clear(w.places[height:])
-	w.places = w.places[:height]
-}
-
 // back goes back to the last place from which the search can go on.
 func (w *Walker) back() {
 again:
-	top := len(w.places) - 1
-	if top < 0 {
-		store.End(api.ErrNone)
-	}
-	last := w.places[top]
-	w.cut(top)
-	w.store.Undo(last.mark)
+	last := w.Back()
 	w.todo = last.todo
 	if len(last.clauses) > 0 && !w.try(last.clauses, last.args) {
 		goto again
@@ -132,7 +115,7 @@ again:
 
 // answer writes what the question's variables are (P6).
 func (w *Walker) answer() string {
-	out := term.NewWriter(w.store.Count)
+	out := term.NewWriter(w.Count)
 	between := ""
 	for i, v := range w.names {
 		if v.Name[0] == '_' {

@@ -28,7 +28,7 @@ func needed(t *testing.T, program, question string, n int) int {
 	t.Helper()
 	for much := range most {
 		w := begun(t, program, question)
-		w.store = store.New(much)
+		w.Store = store.New(much)
 		var err error
 		for left := n; left > 0 && err == nil; left-- {
 			_, err = store.Caught(w.Answer)
@@ -85,8 +85,8 @@ func TestPlaces(t *testing.T) {
 		{"a. a.", "(a -> a ; a).", 1}, {"a. a.", "\\+ fail, a.", 1}, {"a. a. b :- a, !. b.", "a, b.", 1}, {"a. a.", "(a, a -> true ; true), a.", 1}, {"a. a.", "a ; a.", 2},
 	} {
 		w := begun(t, c.program, c.question)
-		if _, err := store.Caught(w.Answer); err != nil || len(w.places) != c.want {
-			t.Errorf("P7: %q to %q: %d places, %v", c.question, c.program, len(w.places), err)
+		if _, err := store.Caught(w.Answer); err != nil || w.Height() != c.want {
+			t.Errorf("P7: %q to %q: %d places, %v", c.question, c.program, w.Height(), err)
 		}
 	}
 }
