@@ -55,6 +55,15 @@ type Question struct {
 	Vars []*term.Var
 }
 
+// Names are those of the question's variables.
+func (q *Question) Names() []string {
+	names := make([]string, len(q.Vars))
+	for i, v := range q.Vars {
+		names[i] = v.Name
+	}
+	return names
+}
+
 // Arity tells how many arguments the language's goal of that name has, and whether there is one.
 func Arity(name string) (int, bool) {
 	switch name {

@@ -21,9 +21,15 @@ func load(t *testing.T, program string) *horn.Base {
 
 func ask(t *testing.T, base *horn.Base, question string) *horn.Query {
 	t.Helper()
-	query, err := base.Ask(question, false)
+	return askBy(t, base, question, false)
+}
+
+// askBy asks by walking, or by the machine.
+func askBy(t *testing.T, base *horn.Base, question string, machine bool) *horn.Query {
+	t.Helper()
+	query, err := base.Ask(question, machine)
 	if query == nil || err != nil {
-		t.Fatalf("Ask(%q): %v", question, err)
+		t.Fatalf("Ask(%q, %v): %v", question, machine, err)
 	}
 	return query
 }
@@ -52,10 +58,15 @@ func ends(text string) bool {
 	return strings.Contains(" code none inst type zero proc fuel ", " "+text+" ")
 }
 
-// checkAnswers asks a question, and holds what is told against what has to be.
+// checkAnswers asks a question, by walking, by the machine and by its code, and holds what is told against what has to be.
 func checkAnswers(t *testing.T, promise, program, question, want string) {
 	t.Helper()
-	checkTold(t, promise+": "+strconv.Quote(question)+" to "+strconv.Quote(program), ask(t, load(t, program), question), want)
+	what, base := strconv.Quote(question)+" to "+strconv.Quote(program), load(t, program)
+	checkTold(t, promise+": "+what, ask(t, base, question), want)
+	checkTold(t, "P14: by the machine: "+what, askBy(t, base, question, true), want)
+	if !strings.Contains(question, "_") {
+		checkTold(t, "P14: by its code: "+what, run(t, codeOf(t, base, question)), bare(want))
+	}
 }
 
 // checkTold holds what a query tells, one after the other, against texts with `;` between. What ended it is asked for thrice.
@@ -307,13 +318,16 @@ func TestNever(t *testing.T) {
 		checkAnswers(t, "P10", c[0], c[1], "fuel")
 	}
 	for _, c := range [][2]string{{"n. n :- n.", "n."}, {"n(0). n(s(X)) :- n(X).", "n(X)."}, {"n(X). n(X) :- n([X|Y]).", "n(X)."}, {"n(X) :- n(Y). n(1).", "n(X) ; n(X)."}} {
-		query := ask(t, load(t, c[0]), c[1])
-		last := ""
-		for range 2 * api.Fuel {
-			last = told(t, query)
-		}
-		if last != "fuel" {
-			t.Errorf("P10: %q to %q: %s", c[1], c[0], last)
+		for _, machine := range []bool{false, true} {
+			query, last := askBy(t, load(t, c[0]), c[1], machine), ""
+			for range 100 * api.Fuel {
+				if last = told(t, query); last == "fuel" {
+					break
+				}
+			}
+			if last != "fuel" {
+				t.Errorf("P10: %q to %q: %s", c[1], c[0], last)
+			}
 		}
 	}
 }

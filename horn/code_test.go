@@ -219,7 +219,7 @@ func someCode(state *uint32) string {
 // TestCodeSweep: P1, P11, P12: of many codes: every call ends with an answer or just one error, and again with the same.
 func TestCodeSweep(t *testing.T) {
 	state, begun := uint32(1), 0
-	for range 1500 {
+	for range 500 {
 		code := someCode(&state)
 		first, err := horn.Run(code)
 		second, again := horn.Run(code)
@@ -236,7 +236,7 @@ func TestCodeSweep(t *testing.T) {
 			}
 		}
 	}
-	if begun < 500 {
+	if begun < 150 {
 		t.Errorf("only %d of the codes are any", begun)
 	}
 }

@@ -4,6 +4,7 @@ package horn
 import (
 	"horn/api"
 	"horn/clause"
+	"horn/compile"
 	"horn/machine"
 	"horn/store"
 	"horn/syntax"
@@ -45,13 +46,20 @@ func Load(s string) (*Base, error) {
 	return &Base{program: clause.NewProgram(clauses)}, nil
 }
 
-// Ask begins a question (P6, P14). By the machine it only tells the question's fault, for now.
+// Ask begins a question (P6), by walking or by the machine (P14).
 func (b *Base) Ask(s string, machine bool) (*Query, error) {
 	question, err := syntax.Question(s)
-	if err != nil || machine {
+	if err != nil {
 		return nil, err
 	}
-	return &Query{engine: walk.New(b.clauses(), question)}, nil
+	if !machine {
+		return &Query{engine: walk.New(b.clauses(), question)}, nil
+	}
+	text, err := compile.Code(b.clauses(), question)
+	if err != nil {
+		return nil, err
+	}
+	return begin(text, question.Names())
 }
 
 // clauses are none of a Base that Load did not make: no call may panic.
@@ -62,15 +70,21 @@ func (b *Base) clauses() clause.Program {
 	return b.program
 }
 
-// Code tells the code of a question to a program (P14). For now it only tells the question's fault.
+// Code tells the code of a question to a program (P14).
 func (b *Base) Code(s string) (string, error) {
-	_, err := syntax.Question(s)
-	return "", err
+	question, err := syntax.Question(s)
+	if err != nil {
+		return "", err
+	}
+	return compile.Code(b.clauses(), question)
 }
 
 // Run begins a code's question (P13).
-func Run(code string) (*Query, error) {
-	begun, err := machine.Load(code)
+func Run(code string) (*Query, error) { return begin(code, nil) }
+
+// begin begins a code's question, with names for what it tells.
+func begin(code string, names []string) (*Query, error) {
+	begun, err := machine.Load(code, names)
 	if err != nil {
 		return nil, err
 	}

@@ -66,13 +66,13 @@ func checkQuestion(t *testing.T, text string, want fault) {
 	for _, machine := range []bool{false, true} {
 		query, err := base.Ask(text, machine)
 		check(t, "Ask", text, err, want)
-		if err != nil && query != nil {
+		if (query == nil) != (err != nil) {
 			t.Errorf("Ask(%q): %v with %v", text, query, err)
 		}
 	}
 	code, err := base.Code(text)
 	check(t, "Code", text, err, want)
-	if err != nil && code != "" {
+	if (code == "") != (err != nil) {
 		t.Errorf("Code(%q): %q with %v", text, code, err)
 	}
 }

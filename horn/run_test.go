@@ -210,8 +210,10 @@ func TestRunNever(t *testing.T) {
 	}
 	for _, code := range []string{"query 0 0;try 0;done;", nats + "query 1 1;new 0;call n 0;done;", "query 1 1;new 0;try 0;done;"} {
 		query, last := run(t, code), ""
-		for range 2 * api.Fuel {
-			last = told(t, query)
+		for range 100 * api.Fuel {
+			if last = told(t, query); last == "fuel" {
+				break
+			}
 		}
 		if last != "fuel" {
 			t.Errorf("P13: %s: %s", short(code), last)
@@ -219,19 +221,36 @@ func TestRunNever(t *testing.T) {
 	}
 }
 
+// checkRoom runs a code that would never end, and holds the room it takes against what it may.
+func checkRoom(t *testing.T, code string, most uint64) {
+	t.Helper()
+	var before, after runtime.MemStats
+	runtime.ReadMemStats(&before)
+	if got := told(t, run(t, code)); got != "fuel" {
+		t.Errorf("P13: %s", got)
+	}
+	runtime.ReadMemStats(&after)
+	if room := after.TotalAlloc - before.TotalAlloc; room > most {
+		t.Errorf("P1: %s takes %d bytes", short(code), room)
+	}
+}
+
+// TestRunMost: P1: codes for which as much is done as ever is take no more room than there is, and no longer the more they have bound.
+func TestRunMost(t *testing.T) {
+	all, most := each(" ", 0, 64), "pred most 0;clause 1"+strings.Repeat(";put 0 a", 95)+";"
+	for _, code := range []string{
+		"query 64 0" + each(";new ", 0, 64) + strings.Repeat(";make 0 f"+all, 90) + ";jump 64;", "query 64 0;new 0" + strings.Repeat(";split 0 f"+all, 90) + ";jump 1;", most + "pred p 63;clause 64;call p" + each(" ", 0, 63) + ";test true;ret;clause 0;query 64 0;call p" + each(" ", 0, 63) + ";",
+		most + "query 2 0;new 0;new 1;same 0 1;jump 1;", most + "query 2 0;new 0;new 1;same 1 0;jump 1;", most + "query 1 1;put 0 a" + strings.Repeat(";make 0 f 0", 4000) + ";try 1;jump 1;",
+	} {
+		checkRoom(t, code, 1<<29)
+	}
+}
+
 // TestRunWide: P1: a line with thousands of slots, done again and again, and lists that share one another's, take no more room than there is.
 func TestRunWide(t *testing.T) {
 	wide := strings.Repeat(" 1", 32000)
 	for _, code := range []string{"query 2 0;new 1;make 1 f" + wide + ";jump 1;", "query 2 0;new 0;split 0 f" + wide + ";jump 0;", "query 2 0;try 0;new 0;split 0 f" + wide + ";make 1 f" + wide[:100] + ";jump 0;", "query 2 0;put 1 a;make 1 f" + wide + ";new 0;same 0 1;jump 2;", "query 1 1;put 0 a" + strings.Repeat(";make 0 . 0 0", 5000) + ";done;"} {
-		var before, after runtime.MemStats
-		runtime.ReadMemStats(&before)
-		if got := told(t, run(t, code)); got != "fuel" {
-			t.Errorf("P13: %s", got)
-		}
-		runtime.ReadMemStats(&after)
-		if room := after.TotalAlloc - before.TotalAlloc; room > 1<<28 {
-			t.Errorf("P1: %s takes %d bytes", short(code), room)
-		}
+		checkRoom(t, code, 1<<28)
 	}
 	wide = strings.Repeat(" 1", 9000)
 	checkRuns(t, "P11", map[string]string{

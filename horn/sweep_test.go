@@ -40,10 +40,14 @@ func soundText(t *testing.T, base *horn.Base, text string) {
 	}
 	loaded, err := horn.Load(text)
 	sound(t, "Load", text, loaded != nil, err)
-	query, err := base.Ask(text, false)
-	sound(t, "Ask", text, query != nil, err)
-	for i := 0; err == nil && i < 3; i++ {
-		told(t, query)
+	for _, machine := range []bool{false, true} {
+		query, err := base.Ask(text, machine)
+		sound(t, "Ask", text, query != nil, err)
+	}
+	code, err := base.Code(text)
+	sound(t, "Code", text, code != "", err)
+	if err == nil {
+		checkAlike(t, base, "", text, 3)
 	}
 }
 

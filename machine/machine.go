@@ -8,13 +8,12 @@ import (
 	"horn/term"
 )
 
-// most is what may be counted. P13 asks for no less than api.Fuel; nothing is counted here that need not be, so the rest is only to be on the safe side.
-const most = 2 * api.Fuel
-
 // Machine is a code's query under way.
 type Machine struct {
 	store.Search[place]
+	budget
 	code  *code.Code
+	names []string // what an answer tells the query's first slots by
 	query *frame
 	frame *frame // the one it is in
 	next  int    // the instruction of it that is to be done
@@ -29,24 +28,29 @@ type place struct {
 	args    []any
 }
 
-// New begins a code's query.
-func New(read *code.Code) *Machine {
+// New begins a code's query. Its answers tell slots by their names, or by themselves, if there are no names.
+func New(read *code.Code, names []string) *Machine {
+	if names == nil {
+		names = make([]string, read.Told)
+	}
 	query := newFrame(read.Query, nil)
 	return &Machine{
 		Search: store.NewSearch[place](most),
+		budget: newBudget(read),
 		code:   read,
+		names:  names,
 		query:  query,
 		frame:  query,
 	}
 }
 
-// Load begins the query of a code's text.
-func Load(text string) (*Machine, error) {
+// Load begins the query of a code's text, as New does.
+func Load(text string, names []string) (*Machine, error) {
 	read, err := code.Read(text)
 	if err != nil {
 		return nil, err
 	}
-	return New(read), nil
+	return New(read, names), nil
 }
 
 // Answer looks for the next answer, and tells it. If there is none, it ends the query (store.End).
@@ -72,6 +76,7 @@ func (m *Machine) fetch() code.Instruction {
 		store.End(api.ErrCode)
 	}
 	m.Count()
+	m.step()
 	now := m.frame.instructions[m.next]
 	m.next++
 	return now
@@ -82,6 +87,7 @@ func (m *Machine) do(now code.Instruction) bool {
 	f := m.frame
 	switch x := now.(type) {
 	case code.New:
+		m.take(variable)
 		f.slots[x.Slot] = &term.Var{}
 	case code.Put:
 		f.slots[x.Slot] = x.Constant
@@ -90,6 +96,7 @@ func (m *Machine) do(now code.Instruction) bool {
 	case code.Same:
 		return m.Same(f.term(x.Left), f.term(x.Right))
 	case code.Make:
+		m.take(thing + len(x.Slots))
 		f.slots[x.Slot] = &term.Compound{Name: x.Name, Args: f.terms(x.Slots), Order: x.Order}
 	case code.Split:
 		return m.split(x)
@@ -117,6 +124,7 @@ func (m *Machine) do(now code.Instruction) bool {
 func (m *Machine) split(x code.Split) bool {
 	whole := term.Resolve(m.frame.term(x.Slot))
 	if v, ok := whole.(*term.Var); ok {
+		m.take(thing + len(x.Slots)*(1+variable))
 		whole = newCompound(x)
 		m.Bind(v, whole)
 	}
@@ -149,6 +157,7 @@ func (m *Machine) call(x code.Call) bool {
 	if len(clauses) == 0 {
 		return false
 	}
+	m.take(len(x.Slots))
 	m.enter(clauses, m.frame.things(x.Slots))
 	return true
 }
@@ -156,11 +165,24 @@ func (m *Machine) call(x code.Call) bool {
 // enter goes on in a frame of the first of some clauses, with a place for the others.
 func (m *Machine) enter(clauses []*code.Block, args []any) {
 	f := newFrame(clauses[0], args)
-	f.behind, f.next, f.height = m.frame, m.next, height(m.Height())
+	m.take(thing + len(f.slots))
+	f.behind, f.next = m.behind()
+	f.height = height(m.Height())
 	if len(clauses) > 1 {
 		m.Put(place{m.frame, m.next, clauses[1:], args})
 	}
 	m.frame, m.next = f, 0
+}
+
+// behind tells where a call goes on behind its end. If all that is left here is to ret, that is where this frame goes on behind its own: walking does nothing at a clause's end, so that the machine must not do as much as there are calls within calls.
+func (m *Machine) behind() (*frame, int) {
+	f := m.frame
+	if f != m.query && m.next < len(f.instructions) {
+		if _, ok := f.instructions[m.next].(code.Ret); ok {
+			return f.behind, f.next
+		}
+	}
+	return f, m.next
 }
 
 // ret goes on in the frame behind; the query has none.
@@ -185,19 +207,9 @@ func (m *Machine) answer() string {
 	if m.frame != m.query {
 		store.End(api.ErrCode)
 	}
-	if m.code.Told == 0 {
-		return "true"
-	}
 	told := make([]term.Term, m.code.Told)
 	for slot := range told {
 		told[slot] = m.query.term(slot)
 	}
-	out := term.NewWriter(m.Count)
-	for i, t := range told {
-		if i > 0 {
-			out.Plain(", ")
-		}
-		out.Term(t)
-	}
-	return out.Text()
+	return term.NewWriter(m.CountAt).Answer(m.names, told)
 }

@@ -13,7 +13,7 @@ import (
 
 func begun(t *testing.T, text string) *Machine {
 	t.Helper()
-	m, err := Load(strings.ReplaceAll(text, ";", "\n"))
+	m, err := Load(strings.ReplaceAll(text, ";", "\n"), nil)
 	if err != nil {
 		t.Fatalf("%q: %v", text, err)
 	}
@@ -97,8 +97,63 @@ func TestSlots(t *testing.T) {
 func TestCodeStays(t *testing.T) {
 	first := begun(t, "query 3 3;new 0;split 0 f 1 1;make 2 g 1 1;const 1 a;done;")
 	for range 3 {
-		if got := New(first.code).Answer(); got != "f(_1,a), a, g(a,a)" {
+		if got := New(first.code, nil).Answer(); got != "f(_1,a), a, g(a,a)" {
 			t.Errorf("P1: %s", got)
+		}
+	}
+}
+
+// TestBehind: P14: behind the end of the last call of a clause the machine goes on where the clause would, however many calls there are; ErrCode of ret in the query is told all the same.
+func TestBehind(t *testing.T) {
+	end := "pred c 0;clause 0;ret;clause 0;ret;"
+	for text, want := range map[string][2]int{
+		"pred a 0;clause 0;call b;ret;pred b 0;clause 0;call c;ret;" + end + "query 0 0;call a;done;":           {5, 7},
+		"pred a 0;clause 0;call b;test true;ret;pred b 0;clause 0;call c;ret;" + end + "query 0 0;call a;done;": {7, 11},
+		"pred a 0;clause 0;call b;ret;pred b 0;clause 0;call c;jump 2;ret;" + end + "query 0 0;call a;done;":    {7, 11},
+	} {
+		if got := [2]int{needed(t, text, 1), needed(t, text, 2)}; got != want {
+			t.Errorf("P14: %q: got %v, want %v", text, got, want)
+		}
+	}
+	for text, want := range map[string]api.Errno{
+		end + "query 0 0;call c;ret;": api.ErrCode, end + "query 0 0;call c;": api.ErrCode, "pred a 0;clause 0;call c;" + end + "query 0 0;call a;done;": api.ErrCode, "pred a 0;clause 0;call c;ret;" + end + "query 0 0;call a;ret;": api.ErrCode, "pred a 0;clause 0;call a;ret;query 0 0;call a;done;": api.ErrFuel,
+	} {
+		if _, err := store.Caught(begun(t, text).Answer); !errors.Is(err, want) {
+			t.Errorf("P12: %q: %v", text, err)
+		}
+	}
+}
+
+// TestNames: P14: an answer tells slots by their names, and not those with `_`.
+func TestNames(t *testing.T) {
+	read := begun(t, "query 4 3;new 0;put 1 a;make 2 f 0 0;done;").code
+	for want, names := range map[string][]string{
+		"_1, a, f(_1,_1)": nil, "X = _1, Y = a, Z = f(_1,_1)": {"X", "Y", "Z"}, "Y = a, Z = f(_1,_1)": {"_", "Y", "Z"}, "X = _1": {"X", "_Y", "_"}, "true": {"_", "_", "_"},
+	} {
+		if got := New(read, names).Answer(); got != want {
+			t.Errorf("P14: %v: %s", names, got)
+		}
+	}
+}
+
+// TestBudget: P13, P14: how much may be done hangs on the greatest terms that a code makes, and is never more than a hundred times as much as by walking.
+func TestBudget(t *testing.T) {
+	build := func(many int) string { return strings.Repeat("put 0 a;new 0;make 0 f 0;", many) }
+	for text, want := range map[string]int{
+		"query 0 0;done;": few, "query 1 0;" + build(1) + "done;": few + 3, "query 1 0;" + build(5) + "done;" + build(3): few + 15, "query 1 0;" + build(2) + "test true;" + build(3): few + 9, "pred p 0;clause 0;ret;clause 1;" + build(4) + "ret;query 1 0;new 0;done;": few + 12, "query 1 0;" + build(200): times,
+	} {
+		if m := begun(t, text); m.steps != want*api.Fuel {
+			t.Errorf("%.60s: %d", text, m.steps)
+		}
+	}
+	b := budget{steps: 2, room: 5}
+	for i, c := range []struct {
+		do   func()
+		ends bool
+	}{{b.step, false}, {b.step, false}, {b.step, true}, {func() { b.take(5) }, false}, {func() { b.take(0) }, false}, {func() { b.take(1) }, true}} {
+		_, err := store.Caught(func() string { c.do(); return "" })
+		if (err != nil) != c.ends {
+			t.Errorf("%d: %v", i, err)
 		}
 	}
 }

@@ -190,3 +190,72 @@ func TestCaught(t *testing.T) {
 	}()
 	Caught(func() string { panic(other) })
 }
+
+// TestJoin: P7: variables that are made one, in whatever order, are soon found to be, and each is by itself again when that is undone.
+func TestJoin(t *testing.T) {
+	const many, far = 1 << 12, 13
+	for name, pair := range map[string]func(vars []*term.Var, i int) (a, b *term.Var){
+		"up": func(vars []*term.Var, i int) (a, b *term.Var) { return vars[i-1], vars[i] }, "up, turned": func(vars []*term.Var, i int) (a, b *term.Var) { return vars[i], vars[i-1] },
+		"down": func(vars []*term.Var, i int) (a, b *term.Var) { return vars[many-i-1], vars[many-i] }, "down, turned": func(vars []*term.Var, i int) (a, b *term.Var) { return vars[many-i], vars[many-i-1] },
+		"halves": func(vars []*term.Var, i int) (a, b *term.Var) { return vars[i&(i-1)], vars[i] },
+	} {
+		vars := make([]*term.Var, many)
+		for i := range vars {
+			vars[i] = &term.Var{}
+		}
+		s := New(2 * many)
+		for i := 1; i < many; i++ {
+			if a, b := pair(vars, i); !s.Same(a, b) {
+				t.Fatal(name)
+			}
+		}
+		for _, v := range vars {
+			steps := 0
+			for at := v; at.Value != nil; at = at.Value.(*term.Var) {
+				steps++
+			}
+			if steps > far || term.Resolve(v) != term.Resolve(vars[0]) {
+				t.Fatalf("%s: %d steps", name, steps)
+			}
+		}
+		s.Undo(0)
+		for _, v := range vars {
+			if v.Value != nil || v.Held != 0 {
+				t.Fatalf("%s: not undone: %v", name, v)
+			}
+		}
+	}
+}
+
+// nested is a name with arguments so many deep.
+func nested(name string, deep int, bottom term.Term) term.Term {
+	for range deep {
+		bottom = of(name, bottom, term.Number(0))
+	}
+	return bottom
+}
+
+// TestDeep: P1, P10: terms that are as deep as can be within api.Fuel are gone into, but no call comes to grief of one that is deeper than there is room to go.
+func TestDeep(t *testing.T) {
+	x := &term.Var{}
+	for name, do := range map[string]func(s *Store, t term.Term) bool{
+		"same": func(s *Store, t term.Term) bool { return s.Same(t, t) }, "stands in": func(s *Store, t term.Term) bool { return s.Same(x, t) }, "==": func(s *Store, t term.Term) bool { return s.Test("==", []term.Term{t, t}) }, "value": func(s *Store, t term.Term) bool { return s.Test("=:=", []term.Term{t, t}) },
+		"written": func(s *Store, t term.Term) bool {
+			return term.NewWriter(s.CountAt).Answer([]string{""}, []term.Term{t}) != ""
+		},
+	} {
+		for deep, want := range map[int]error{api.Fuel: nil, 2*api.Fuel - 1: nil, 3 * api.Fuel: api.ErrFuel, 1000000: api.ErrFuel} {
+			s := New(100 * api.Fuel)
+			_, err := Caught(func() string {
+				if !do(s, nested("+", deep, term.Number(1))) || s.depth != 0 {
+					t.Errorf("%s, %d deep: %d", name, deep, s.depth)
+				}
+				return ""
+			})
+			if err != want {
+				t.Errorf("%s, %d deep: %v", name, deep, err)
+			}
+			s.Undo(0)
+		}
+	}
+}

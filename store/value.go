@@ -15,6 +15,8 @@ func (s *Store) value(t term.Term) int64 {
 		End(api.ErrInst)
 	case *term.Compound:
 		if term.IsOperation(x) {
+			s.into()
+			defer s.out()
 			left := s.value(x.Arg(0))
 			return operate(x.Name, left, s.value(x.Arg(1)))
 		}

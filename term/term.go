@@ -20,6 +20,7 @@ type Var struct {
 	Name  string
 	Index int  // among those of the text it was read in, in the order in which they stand there
 	Value Term // nil, while it has none
+	Held  int  // how many others have come to be it: those whose values lead to it
 }
 
 // Compound is a name with arguments: Arity tells how many, Arg which.

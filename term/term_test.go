@@ -46,7 +46,7 @@ func TestForm(t *testing.T) {
 // TestWriterNumbers: the numbers of variables go on from term to term.
 func TestWriterNumbers(t *testing.T) {
 	x, y := &Var{}, &Var{}
-	w := NewWriter(func() {})
+	w := NewWriter(func(int) {})
 	w.Term(of("f", y))
 	w.Term(of("g", x, y))
 	if got := w.Text(); got != "f(_1)g(_2,_1)" {
@@ -126,8 +126,7 @@ func TestWriterCounts(t *testing.T) {
 		{a, 1}, {&Var{Value: a}, 1}, {of("f", a, &Var{}), 3}, {of("+", a, of("*", a, a)), 5}, {Empty, 1}, {List([]Term{a, a}, Empty), 3}, {List([]Term{a, a}, a), 4}, {List([]Term{List([]Term{a}, Empty)}, of("f", a)), 5},
 	} {
 		counted := 0
-		w := NewWriter(func() { counted++ })
-		w.Plain("X = ")
+		w := NewWriter(func(int) { counted++ })
 		w.Term(c.of)
 		if counted != c.want {
 			t.Errorf("P10: %s: %d", w.Text(), counted)
@@ -173,5 +172,38 @@ func TestUnmet(t *testing.T) {
 	}
 	if !slices.Equal(order, []int{Unmet, Unmet, Unmet}) || len(row.Args) != 3 {
 		t.Error(order, len(row.Args))
+	}
+}
+
+// TestAnswer: P6, P13: terms with their names, without those with `_`, or by themselves.
+func TestAnswer(t *testing.T) {
+	x, y := &Var{}, &Var{Value: Number(1)}
+	terms := []Term{x, of("f", y, x), &Var{}}
+	for want, names := range map[string][]string{
+		"X = _1, Y = f(1,_1), Z = _2": {"X", "Y", "Z"}, "Y = f(1,_1), Z = _2": {"_X", "Y", "Z"}, "Y = f(1,_1)": {"_", "Y", "_"}, "true": {"_", "_Y", "_"}, "_1, f(1,_1), _2": {"", "", ""},
+	} {
+		if got := NewWriter(func(int) {}).Answer(names, terms); got != want {
+			t.Errorf("P6: %v: %s", names, got)
+		}
+	}
+	if got := NewWriter(func(int) {}).Answer(nil, nil); got != "true" {
+		t.Errorf("P6: %s", got)
+	}
+}
+
+// TestWriterDepths: how deep each term stands is told with it; the rest of a list stands no deeper than its elements.
+func TestWriterDepths(t *testing.T) {
+	a := Atom("a")
+	for _, c := range []struct {
+		of   Term
+		want []int
+	}{
+		{a, []int{0}}, {of("f", a, of("g", a), a), []int{0, 1, 1, 2, 1}}, {of("+", of("*", a, a), a), []int{0, 1, 2, 2, 1}}, {List([]Term{a, of("f", a), a}, a), []int{0, 1, 1, 2, 1, 1}},
+	} {
+		var got []int
+		w := NewWriter(func(depth int) { got = append(got, depth) })
+		if w.Term(c.of); !slices.Equal(got, c.want) {
+			t.Errorf("%s: %v", w.Text(), got)
+		}
 	}
 }

@@ -9,30 +9,49 @@ import (
 type Writer struct {
 	out     strings.Builder
 	numbers map[*Var]int
-	count   func()
+	count   func(depth int)
+	depth   int
 }
 
-// NewWriter is a writer that has met no variable yet. It calls count ahead of each term, which may end it by a panic.
-func NewWriter(count func()) *Writer {
+// NewWriter is a writer that has met no variable yet. It calls count ahead of each term, with how deep it stands, which may end it by a panic.
+func NewWriter(count func(depth int)) *Writer {
 	return &Writer{numbers: map[*Var]int{}, count: count}
 }
 
 // Form tells the one form of a term by itself.
 func Form(t Term) string {
-	w := NewWriter(func() {})
+	w := NewWriter(func(int) {})
 	w.Term(t)
 	return w.Text()
 }
 
-// Plain writes what is no term.
-func (w *Writer) Plain(text string) { w.out.WriteString(text) }
-
 // Text tells all that was written.
 func (w *Writer) Text() string { return w.out.String() }
 
+// Answer writes an answer: terms with their names, but none whose name begins with `_`. One without a name stands by itself.
+func (w *Writer) Answer(names []string, terms []Term) string {
+	between := ""
+	for i, name := range names {
+		if strings.HasPrefix(name, "_") {
+			continue
+		}
+		w.out.WriteString(between)
+		if name != "" {
+			w.out.WriteString(name + " = ")
+		}
+		w.Term(terms[i])
+		between = ", "
+	}
+	if between == "" {
+		return "true"
+	}
+	return w.Text()
+}
+
 // Term writes a term.
 func (w *Writer) Term(t Term) {
-	w.count()
+	w.count(w.depth)
+	w.depth++
 	switch x := Resolve(t).(type) {
 	case Atom:
 		w.out.WriteString(string(x))
@@ -43,6 +62,7 @@ func (w *Writer) Term(t Term) {
 	case *Compound:
 		w.compound(x)
 	}
+	w.depth--
 }
 
 func (w *Writer) number(v *Var) int {

@@ -15,8 +15,8 @@ const most = 2 * api.Fuel
 type Walker struct {
 	store.Search[place]
 	program clause.Program
-	names   []*term.Var // the question's variables, as they were read
-	vars    []term.Var  // the same, as they are by now
+	names   []string   // of the question's variables
+	vars    []term.Var // the same, as they are by now
 	todo    *todo
 	begun   bool
 }
@@ -27,7 +27,7 @@ func New(program clause.Program, question *clause.Question) *Walker {
 	return &Walker{
 		Search:  store.NewSearch[place](most),
 		program: program,
-		names:   question.Vars,
+		names:   question.Names(),
 		vars:    vars,
 		todo:    &todo{goal: question.Body, vars: vars},
 	}
@@ -115,18 +115,9 @@ again:
 
 // answer writes what the question's variables are (P6).
 func (w *Walker) answer() string {
-	out := term.NewWriter(w.Count)
-	between := ""
-	for i, v := range w.names {
-		if v.Name[0] == '_' {
-			continue
-		}
-		out.Plain(between + v.Name + " = ")
-		out.Term(&w.vars[i])
-		between = ", "
+	terms := make([]term.Term, len(w.vars))
+	for i := range w.vars {
+		terms[i] = &w.vars[i]
 	}
-	if between == "" {
-		return "true"
-	}
-	return out.Text()
+	return term.NewWriter(w.CountAt).Answer(w.names, terms)
 }
