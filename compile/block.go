@@ -5,6 +5,8 @@ import (
 	"strings"
 
 	"horn/api"
+	"horn/clause"
+	"horn/term"
 )
 
 // mostLines is how many a goal may have. Walking counts it as one, and the machine may count a hundred times as much (P14): the rest is for what stands around it.
@@ -29,8 +31,13 @@ type line struct {
 // place tells where a leap leads to. It can do so only when all that is leapt over is there.
 type place func() int
 
-func newBlock(vars int) *block {
-	return &block{slots: make([]int, vars), met: make([]bool, vars)}
+// newBlock makes the lines of a head and a body, with so many variables in both, and a word at the end.
+func newBlock(head []term.Term, body clause.Goal, vars int, end string) *block {
+	b := &block{slots: make([]int, vars), met: make([]bool, vars)}
+	b.head(head)
+	b.others()
+	b.goal(body, around{height: own, leave: func() { b.add(end) }})
+	return b
 }
 
 // fits tells whether the machine has so many slots, and is done with each goal soon enough.

@@ -47,18 +47,10 @@ func sorted(program clause.Program) []clause.Predicate {
 }
 
 func clauseBlock(c clause.Clause) *block {
-	b := newBlock(len(c.Vars))
-	b.head(c.Head.Args)
-	b.others()
-	b.goal(c.Body, around{height: own, leave: func() { b.add("ret") }})
-	return b
+	return newBlock(c.Head.Args, c.Body, len(c.Vars), "ret")
 }
 
-// questionBlock has the variables in the first slots, in their order, where they are told.
+// questionBlock has no head, so that the variables are in the first slots, in their order, where they are told.
 func questionBlock(q *clause.Question) *block {
-	b := newBlock(len(q.Vars))
-	b.head(nil)
-	b.others()
-	b.goal(q.Body, around{height: own, leave: func() { b.add("done") }})
-	return b
+	return newBlock(nil, q.Body, len(q.Vars), "done")
 }

@@ -13,7 +13,7 @@ func (b *block) head(args []term.Term) {
 	}
 	for i, arg := range args {
 		if v, ok := arg.(*term.Var); ok && !b.met[v.Index] {
-			b.meet(v, i)
+			b.met[v.Index], b.slots[v.Index] = true, i
 		}
 	}
 	for i, met := range b.met {
@@ -24,11 +24,6 @@ func (b *block) head(args []term.Term) {
 	for i, arg := range args {
 		b.match(i, arg)
 	}
-}
-
-func (b *block) meet(v *term.Var, slot int) {
-	b.met[v.Index] = true
-	b.slots[v.Index] = slot
 }
 
 // others makes the lines of the variables that the head has not.
@@ -69,7 +64,6 @@ func (b *block) split(slot int, c *term.Compound) {
 		}
 		b.match(parts[i], arg)
 	}
-	b.free = free
 }
 
 // part is a slot for an argument that is taken out: its own, if it is a variable that is met here.

@@ -238,7 +238,7 @@ func TestMachineMuch(t *testing.T) {
 		many              int
 	}{
 		{"d(0) :- b, b, b. d(N) :- M is N-1, d(M). " + facts, "d(1000).", 9000}, {"d(N) :- (N = 0, b, b, b ; M is N-1, d(M)). " + facts, "d(900).", 9000}, {"d(N) :- (N =:= 0 -> b, b, b ; M is N-1, (d(M) ; fail)). " + facts, "d(800).", 8000}, {"d(N) :- (((N =:= 0 -> b, b ; c(N)), ! ; fail) ; c(N)). c(N) :- M is N-1, d(M). " + facts, "d(600).", 3},
-		{"n(_). n(N) :- N > 0, M is N-1, n(M).", "n(1300).", 1300}, {"n(0). n(N) :- nonvar(" + wide(43) + "), M is N-1, n(M).", "n(1500).", 2}, {"n(0). n(N) :- \\+ a(" + wide(43) + "), M is N-1, n(M). a(0).", "n(1100).", 2}, {"n(0). n(N) :- a(_,_), M is N-1, n(M). a(" + wide(24) + "," + wide(26) + ").", "n(400).", 2}, {"n(0). n(N) :- a(1), M is N-1, n(M). a(" + wide(50) + "). a(1).", "n(1000).", 2}, {"n(0). n(N) :- [A,B,C,D,E,F,G,H] = [_|_], M is N-1, n(M).", "n(500).", 2},
+		{"n(_). n(N) :- N > 0, M is N-1, n(M).", "n(1300).", 1300}, {"n(0). n(N) :- nonvar(" + wide(43) + "), M is N-1, n(M).", "n(1500).", 2}, {"n(0). n(N) :- \\+ a(" + wide(43) + "), M is N-1, n(M). a(0).", "n(1100).", 2}, {"n(0). n(N) :- a(_,_), M is N-1, n(M). a(" + wide(24) + "," + wide(26) + ").", "n(400).", 2}, {"n(0). n(N) :- a(1), M is N-1, n(M). a(" + wide(50) + "). a(1).", "n(1000).", 2}, {"n(0). n(N) :- [A,B,C,D,E,F,G,H] = [_|_], M is N-1, n(M).", "n(500).", 2}, {"p :- " + some(11, "b", ", ") + ", fail. p. b :- (true -> true). b :- \\+ fail.", "p.", 2},
 	} {
 		checkAlike(t, load(t, c.program), c.program, c.question, c.many)
 	}

@@ -174,10 +174,10 @@ func (m *Machine) enter(clauses []*code.Block, args []any) {
 	m.frame, m.next = f, 0
 }
 
-// behind tells where a call goes on behind its end. If all that is left here is to ret, that is where this frame goes on behind its own: walking does nothing at a clause's end, so that the machine must not do as much as there are calls within calls.
+// behind tells where a call goes on behind its end. If all that is left here is to ret, that is where this frame goes on behind its own: walking does nothing at a clause's end, so that the machine must not do as much as there are calls within calls. (The query has nothing behind it, so that its ret ends it either way.)
 func (m *Machine) behind() (*frame, int) {
 	f := m.frame
-	if f != m.query && m.next < len(f.instructions) {
+	if m.next < len(f.instructions) {
 		if _, ok := f.instructions[m.next].(code.Ret); ok {
 			return f.behind, f.next
 		}

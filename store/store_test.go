@@ -3,6 +3,7 @@ package store
 import (
 	"errors"
 	"math"
+	"slices"
 	"testing"
 
 	"horn/api"
@@ -191,37 +192,45 @@ func TestCaught(t *testing.T) {
 	Caught(func() string { panic(other) })
 }
 
+// joins is orders in which so many variables can be made one.
+func joins(many int) map[string][][2]int {
+	var up, down, halves [][2]int
+	for i := range many - 1 {
+		up = append(up, [2]int{i, i + 1})
+		down = append(down, [2]int{many - i - 2, many - i - 1})
+	}
+	for size := 1; size < many; size *= 2 {
+		for i := 0; i < many; i += 2 * size {
+			halves = append(halves, [2]int{i, i + size})
+		}
+	}
+	return map[string][][2]int{"up": up, "down": down, "halves": halves}
+}
+
 // TestJoin: P7: variables that are made one, in whatever order, are soon found to be, and each is by itself again when that is undone.
 func TestJoin(t *testing.T) {
-	const many, far = 1 << 12, 13
-	for name, pair := range map[string]func(vars []*term.Var, i int) (a, b *term.Var){
-		"up": func(vars []*term.Var, i int) (a, b *term.Var) { return vars[i-1], vars[i] }, "up, turned": func(vars []*term.Var, i int) (a, b *term.Var) { return vars[i], vars[i-1] },
-		"down": func(vars []*term.Var, i int) (a, b *term.Var) { return vars[many-i-1], vars[many-i] }, "down, turned": func(vars []*term.Var, i int) (a, b *term.Var) { return vars[many-i], vars[many-i-1] },
-		"halves": func(vars []*term.Var, i int) (a, b *term.Var) { return vars[i&(i-1)], vars[i] },
-	} {
-		vars := make([]*term.Var, many)
-		for i := range vars {
-			vars[i] = &term.Var{}
-		}
-		s := New(2 * many)
-		for i := 1; i < many; i++ {
-			if a, b := pair(vars, i); !s.Same(a, b) {
-				t.Fatal(name)
+	const many, far = 1 << 12, 12
+	for name, pairs := range joins(many) {
+		for turn := range 2 {
+			s, vars := New(2*many), make([]*term.Var, many)
+			for i := range vars {
+				vars[i] = &term.Var{}
 			}
-		}
-		for _, v := range vars {
-			steps := 0
-			for at := v; at.Value != nil; at = at.Value.(*term.Var) {
-				steps++
+			for _, pair := range pairs {
+				s.Same(vars[pair[turn]], vars[pair[1-turn]])
 			}
-			if steps > far || term.Resolve(v) != term.Resolve(vars[0]) {
-				t.Fatalf("%s: %d steps", name, steps)
+			for _, v := range vars {
+				steps := 0
+				for at := v; at.Value != nil; at = at.Value.(*term.Var) {
+					steps++
+				}
+				if steps > far || term.Resolve(v) != term.Resolve(vars[0]) {
+					t.Fatalf("P7: %s: %d steps", name, steps)
+				}
 			}
-		}
-		s.Undo(0)
-		for _, v := range vars {
-			if v.Value != nil || v.Held != 0 {
-				t.Fatalf("%s: not undone: %v", name, v)
+			s.Undo(0)
+			if i := slices.IndexFunc(vars, func(v *term.Var) bool { return v.Value != nil || v.Held != 0 }); i >= 0 {
+				t.Errorf("P7: %s: %d is not undone", name, i)
 			}
 		}
 	}
