@@ -31,13 +31,13 @@ type budget struct {
 
 // newBudget hangs on the code: only if it makes great terms must much be done, and a search that never ends is to be ended soon.
 func newBudget(read *code.Code) budget {
-	most := longestRun(read.Query)
+	longest := longestRun(read.Query)
 	for _, blocks := range read.Predicates {
 		for _, block := range blocks {
-			most = max(most, longestRun(block))
+			longest = max(longest, longestRun(block))
 		}
 	}
-	return budget{steps: api.Fuel * min(few+most, times), room: room}
+	return budget{steps: api.Fuel * min(few+longest, times), room: room}
 }
 
 // longestRun is how many instructions that only make terms stand one behind the other.
